@@ -1,0 +1,46 @@
+// Package masque: many behind one face, and none of them seen by another: see DOC.md.
+package masque
+
+import "masque/api"
+
+// Box stands between some tenants and the world.
+type Box struct {
+	tenants map[int]*tenant // by Tag
+}
+
+// New makes a box (P2).
+func New(tenants ...api.Tenant) (*Box, api.Errno) {
+	if e := checkTenants(tenants); e != api.OK {
+		return nil, e
+	}
+	b := &Box{tenants: make(map[int]*tenant, len(tenants))}
+	for _, t := range tenants {
+		b.tenants[t.Tag] = newTenant(t)
+	}
+	return b, api.OK
+}
+
+// Pass passes a packet (P4).
+func (b *Box) Pass(p api.Packet) (api.Packet, api.Verdict, api.Errno) {
+	return api.Packet{}, api.Passed, api.OK
+}
+
+// Batch passes packets (P8).
+func (b *Box) Batch(packets ...api.Packet) ([]api.Result, api.Errno) { return nil, api.OK }
+
+// Tick lets time go by (P3). No call makes a mapping yet, so nothing ages.
+func (b *Box) Tick(ticks int) api.Errno {
+	if ticks < 0 || ticks > api.MaxTicks {
+		return api.ErrTicks
+	}
+	return api.OK
+}
+
+// Table tells a tenant's mappings (P2).
+func (b *Box) Table(tag int) ([]api.Mapping, api.Errno) {
+	t, ok := b.tenants[tag]
+	if !ok {
+		return nil, api.ErrNone
+	}
+	return t.table(), api.OK
+}
