@@ -22,16 +22,27 @@ func New(tenants ...api.Tenant) (*Box, api.Errno) {
 
 // Pass passes a packet (P4).
 func (b *Box) Pass(p api.Packet) (api.Packet, api.Verdict, api.Errno) {
-	return api.Packet{}, api.Passed, api.OK
+	if !isPacket(p) {
+		return api.Packet{}, api.Passed, api.ErrPacket
+	}
+	t, ok := b.tenants[p.Tag]
+	if !ok {
+		return api.Packet{}, api.NoTenant, api.OK
+	}
+	q, v := t.pass(p)
+	return q, v, api.OK
 }
 
 // Batch passes packets (P8).
 func (b *Box) Batch(packets ...api.Packet) ([]api.Result, api.Errno) { return nil, api.OK }
 
-// Tick lets time go by (P3). No call makes a mapping yet, so nothing ages.
+// Tick lets time go by (P3).
 func (b *Box) Tick(ticks int) api.Errno {
 	if ticks < 0 || ticks > api.MaxTicks {
 		return api.ErrTicks
+	}
+	for _, t := range b.tenants {
+		t.age(ticks)
 	}
 	return api.OK
 }
