@@ -34,7 +34,12 @@ func (b *Box) Pass(p api.Packet) (api.Packet, api.Verdict, api.Errno) {
 }
 
 // Batch passes packets (P8).
-func (b *Box) Batch(packets ...api.Packet) ([]api.Result, api.Errno) { return nil, api.OK }
+func (b *Box) Batch(packets ...api.Packet) ([]api.Result, api.Errno) {
+	if e := checkBatch(packets); e != api.OK {
+		return nil, e
+	}
+	return b.passAll(packets), api.OK
+}
 
 // Tick lets time go by (P3).
 func (b *Box) Tick(ticks int) api.Errno {
